@@ -10,11 +10,11 @@ import (
 // view is a tree that has its form, with where each of its nodes lies, and what it means.
 type view struct {
 	api.Tree
-	ups    []int // whose kid it is, -1 of the ProgramNode
+	ups    []int // the node whose kid it is, -1 of the ProgramNode
 	items  []int // the item that it is, or in which it lies, -1 of the ProgramNode
-	levels []int // the EachStmt to whose level it belongs, -1 if that is none, but the TaskItem
+	levels []int // the EachStmt to whose level it belongs, -1 if it belongs to that of its TaskItem, or of none
 	pools  []int // its innermost pool, -1 if it has none
-	means  []int // -1 if it means nothing
+	means  []int // the node that it means, -1 if it means nothing
 }
 
 // viewOf returns the view of a tree.

@@ -89,19 +89,19 @@ func (p *program) inputError(in []int) api.Errno {
 // isTooFar tells whether a number is no integer of a program.
 func isTooFar(n int) bool { return n < -api.MaxNumber || n > api.MaxNumber }
 
-// named returns the tables that a shape names: to ask of an element of it all tables are too many.
+// named returns the tables that a shape names: whatever is asked of its elements would take longer with all of them.
 func (p *program) named(s api.Shape) []api.Table {
 	var out []api.Table
 	for _, table := range p.tables {
-		if names(s, table.Name) {
+		if isOf(s, table.Name) {
 			out = append(out, table)
 		}
 	}
 	return out
 }
 
-// names tells whether a shape, or one in it, is that of a table.
-func names(s api.Shape, table string) bool {
-	isIn := func(kid api.Shape) bool { return names(kid, table) }
+// isOf tells whether a shape, or one in it, is that of a table.
+func isOf(s api.Shape, table string) bool {
+	isIn := func(kid api.Shape) bool { return isOf(kid, table) }
 	return s.Kind == api.ShapeNamed && s.Name == table || slices.ContainsFunc(s.Kids, isIn)
 }
